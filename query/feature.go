@@ -81,11 +81,8 @@ func (a *asker) length() (api.Bound, bool) {
 func (a *asker) ratio() (api.Bound, bool) {
 	n, some := a.Take(api.Num)
 	b := api.Bound{N: n.N, D: one}
-	a.Spaces()
-	if a.Pass(api.Delim, "/") {
-		a.Spaces()
-		d, both := a.Take(api.Num)
-		b.D, some = d.N, some && both
+	if d, both := a.Over(); both {
+		b.D = d.N
 	}
 	return b, some
 }

@@ -103,6 +103,5 @@ func (w *writer) value(feature int, b api.Bound) {
 		w.put(api.Token{Kind: api.Dim, Text: px, N: b.N})
 		return
 	}
-	space := tokens.Sign(api.Space)
-	w.put(api.Token{Kind: api.Num, N: b.N}, space, tokens.Delim("/"), space, api.Token{Kind: api.Num, N: b.D})
+	w.put(tokens.Ratio(b.N, b.D)...)
 }

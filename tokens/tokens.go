@@ -46,6 +46,21 @@ func (c *Cursor) Spaces() bool {
 	return len(c.Left) < was
 }
 
+// Over passes a / and a Num behind it, Spaces or none ahead of both, and answers that Num; it passes nothing, if there are not both.
+func (c *Cursor) Over() (api.Token, bool) {
+	ahead := *c
+	ahead.Spaces()
+	if !ahead.Pass(api.Delim, "/") {
+		return api.Token{}, false
+	}
+	ahead.Spaces()
+	t, some := ahead.Take(api.Num)
+	if some {
+		*c = ahead
+	}
+	return t, some
+}
+
 // Ident answers an Ident.
 func Ident(text string) api.Token {
 	return api.Token{Kind: api.Ident, Text: text}
@@ -59,4 +74,9 @@ func Delim(text string) api.Token {
 // Sign answers a token of a kind that says all: a Space, a Colon, a bracket.
 func Sign(kind int) api.Token {
 	return api.Token{Kind: kind}
+}
+
+// Ratio answers the tokens of a ratio, n to d.
+func Ratio(n, d int) []api.Token {
+	return []api.Token{{Kind: api.Num, N: n}, Sign(api.Space), Delim("/"), Sign(api.Space), {Kind: api.Num, N: d}}
 }

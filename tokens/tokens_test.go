@@ -74,9 +74,32 @@ func TestSpaces(t *testing.T) {
 	}
 }
 
+func TestOver(t *testing.T) {
+	s, over, n, px := tokens.Sign(api.Space), tokens.Delim("/"), api.Token{Kind: api.Num, N: 7}, api.Token{Kind: api.Dim, N: 7}
+	for _, w := range []struct {
+		l    []api.Token
+		left int
+	}{
+		{[]api.Token{over, n}, 0}, {[]api.Token{s, over, n, s}, 1}, {[]api.Token{over, s, s, n, n}, 1}, {[]api.Token{s, s, over, s, n, over, n}, 2},
+	} {
+		c := tokens.Cursor{Left: w.l}
+		if got, some := c.Over(); got != n || !some || len(c.Left) != w.left {
+			t.Errorf("%v: %v, %t, left %v", w.l, got, some, c.Left)
+		}
+	}
+	for _, l := range [][]api.Token{
+		nil, {s}, {over}, {s, over, s}, {n}, {s, n}, {over, over, n}, {s, over, px}, {tokens.Delim("*"), n}, {tokens.Ident("/"), n},
+	} {
+		c := tokens.Cursor{Left: l}
+		if got, some := c.Over(); got != (api.Token{}) || some || !slices.Equal(c.Left, l) {
+			t.Errorf("%v: %v, %t, left %v", l, got, some, c.Left)
+		}
+	}
+}
+
 func TestMakers(t *testing.T) {
-	got := []api.Token{tokens.Ident("a"), tokens.Delim("b"), tokens.Sign(api.Colon)}
-	want := []api.Token{{Kind: 1, Text: "a"}, {Kind: 19, Text: "b"}, {Kind: 10}}
+	got := append(tokens.Ratio(3, 5), tokens.Ident("a"), tokens.Delim("b"), tokens.Sign(api.Colon))
+	want := []api.Token{{Kind: 7, N: 3}, {Kind: 20}, {Kind: 19, Text: "/"}, {Kind: 20}, {Kind: 7, N: 5}, {Kind: 1, Text: "a"}, {Kind: 19, Text: "b"}, {Kind: 10}}
 	if !slices.Equal(got, want) {
 		t.Error(got)
 	}
