@@ -5,7 +5,7 @@ import (
 
 	"wainscot/api"
 	"wainscot/fix"
-	"wainscot/tree"
+	"wainscot/scan"
 )
 
 // newline ends a text between quotes that is not closed.
@@ -28,13 +28,13 @@ begin:
 		goto quote
 	case number(s, at) > at:
 		goto number
-	case s[at] == '#' && at+1 < len(s) && ofName(s[at+1]):
+	case s[at] == '#' && at+1 < len(s) && scan.OfName(s[at+1]):
 		from, t.Kind = at+1, api.Hash
 		goto name
-	case s[at] == '@' && begins(s, at+1):
+	case s[at] == '@' && scan.Begins(s, at+1):
 		from, t.Kind = at+1, api.At
 		goto name
-	case begins(s, at):
+	case scan.Begins(s, at):
 		t.Kind = api.Ident
 		goto name
 	default:
@@ -44,7 +44,7 @@ comment:
 	at = behind(s, at+len("/*"), "*/")
 	goto begin
 space:
-	at = pass(s, at, blank)
+	at = scan.Pass(s, at, blank)
 	t.Kind = api.Space
 	goto told
 quote:
@@ -54,7 +54,7 @@ number:
 	t, at = measure(s, at)
 	goto told
 name:
-	at = pass(s, from, ofName)
+	at = scan.Pass(s, from, scan.OfName)
 	t.Text = s[from:at]
 	if t.Kind == api.Ident && strings.HasPrefix(s[at:], "(") {
 		at++
@@ -73,7 +73,7 @@ told:
 // quote answers the token of the quote at a place, and the place behind it.
 func quote(s string, at int) (api.Token, int) {
 	mark := s[at]
-	end := pass(s, at+1, func(c byte) bool { return c != mark && c != newline })
+	end := scan.Pass(s, at+1, func(c byte) bool { return c != mark && c != newline })
 	t := api.Token{Kind: api.Str, Text: s[at+1 : end]}
 	if end == len(s) {
 		return t, end
@@ -92,19 +92,11 @@ func measure(s string, at int) (api.Token, int) {
 	if strings.HasPrefix(s[end:], "%") {
 		return api.Token{Kind: api.Pct, N: n}, end + 1
 	}
-	if begins(s, end) {
-		unit := pass(s, end, ofName)
+	if scan.Begins(s, end) {
+		unit := scan.Pass(s, end, scan.OfName)
 		return api.Token{Kind: api.Dim, Text: s[end:unit], N: n}, unit
 	}
 	return api.Token{Kind: api.Num, N: n}, end
-}
-
-// pass answers the place behind the bytes from a place on that are as they should.
-func pass(s string, at int, should func(c byte) bool) int {
-	for at < len(s) && should(s[at]) {
-		at++
-	}
-	return at
 }
 
 // behind answers the place behind the next mark from a place on, or the end, if there is none.
@@ -121,10 +113,10 @@ func number(s string, at int) int {
 	if s[at] == '+' || s[at] == '-' {
 		start++
 	}
-	end := pass(s, start, digit)
+	end := scan.Pass(s, start, digit)
 	if strings.HasPrefix(s[end:], ".") {
 		// A point is of the number only with a digit behind it.
-		if more := pass(s, end+1, digit); more > end+1 {
+		if more := scan.Pass(s, end+1, digit); more > end+1 {
 			end = more
 		}
 	}
@@ -150,15 +142,4 @@ func blank(c byte) bool {
 // digit tells whether a byte is one.
 func digit(c byte) bool {
 	return c >= '0' && c <= '9'
-}
-
-// ofName tells whether a byte may stand in a name behind its beginning.
-func ofName(c byte) bool {
-	return tree.Name(string([]byte{'a', c}))
-}
-
-// begins tells whether a name begins at a place: its beginning is a name itself, of one byte or of two.
-func begins(s string, at int) bool {
-	rest := s[at:]
-	return tree.Name(rest[:min(1, len(rest))]) || tree.Name(rest[:min(2, len(rest))])
 }
