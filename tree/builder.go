@@ -2,6 +2,7 @@ package tree
 
 import (
 	"wainscot/api"
+	"wainscot/kin"
 )
 
 // Builder puts a tree together, node by node.
@@ -22,7 +23,7 @@ func (b *Builder) Open(n api.Node) api.Errno {
 		return api.ErrNil
 	}
 	closed := len(b.nodes) > 0 && len(b.open) == 0
-	if closed || !element(n) || !right(n) {
+	if closed || !kin.Element(n) || !right(n) {
 		return api.ErrTree
 	}
 	if e := b.put(n); e != api.OK {
@@ -52,7 +53,7 @@ func (b *Builder) put(n api.Node) api.Errno {
 		return api.ErrDepth
 	}
 	n = clone(n)
-	n.Parent = none
+	n.Parent = kin.None
 	if depth := len(b.open); depth > 0 {
 		n.Parent = b.open[depth-1]
 	}
