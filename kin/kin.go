@@ -1,7 +1,9 @@
-// Package kin tells elements from words, and whose parent a node is: what the layers that go through lists of nodes have in common.
+// Package kin tells elements from words, whose parent a node is, and what it stands beneath: what the layers that go through lists of nodes have in common.
 package kin
 
 import (
+	"iter"
+
 	"wainscot/api"
 )
 
@@ -24,4 +26,16 @@ func Parent(l []api.Node, i int) int {
 		return p
 	}
 	return None
+}
+
+// Ups yields all that a node stands beneath, the nearest first; nothing, if there is no such node.
+func Ups(l []api.Node, i int) iter.Seq[int] {
+	return func(yield func(int) bool) {
+		if !Has(l, i) {
+			return
+		}
+		for up := Parent(l, i); up != None && yield(up); {
+			up = Parent(l, up)
+		}
+	}
 }

@@ -2,6 +2,7 @@ package kin_test
 
 import (
 	"math"
+	"slices"
 	"testing"
 
 	"wainscot/api"
@@ -50,5 +51,26 @@ func TestParent(t *testing.T) {
 				t.Errorf("node %d with Parent %d: %d", i, p, got)
 			}
 		}
+	}
+}
+
+func TestUps(t *testing.T) {
+	l := []api.Node{{Parent: 0}, {Parent: 0}, {Parent: 1}, {Parent: 0}, {Parent: 2}, {Parent: 9}, {Parent: -1}, {Parent: 5}}
+	for i, want := range [][]int{nil, {0}, {1, 0}, {0}, {2, 1, 0}, nil, nil, {5}} {
+		if got := slices.Collect(kin.Ups(l, i)); !slices.Equal(got, want) {
+			t.Errorf("node %d: %v, not %v", i, got, want)
+		}
+	}
+	for _, i := range []int{least, -1, 8, 1 << 32, most} {
+		if got := slices.Collect(kin.Ups(l, i)); got != nil {
+			t.Errorf("node %d: %v", i, got)
+		}
+	}
+	// Who has enough gets no more.
+	for up := range kin.Ups(l, 4) {
+		if up != 2 {
+			t.Errorf("%d is the nearest", up)
+		}
+		break
 	}
 }

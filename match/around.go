@@ -17,24 +17,15 @@ const (
 func around(l []api.Node, i, comb int) iter.Seq[int] {
 	switch comb {
 	case api.Beneath:
-		return ups(l, i)
+		return kin.Ups(l, i)
 	case api.Child:
-		return nearest(ups(l, i))
+		return nearest(kin.Ups(l, i))
 	case api.Next:
 		return nearest(siblings(l, i, ahead))
 	case api.Later:
 		return siblings(l, i, ahead)
 	}
 	return func(func(int) bool) {}
-}
-
-// ups yields what a node stands beneath, the nearest first.
-func ups(l []api.Node, i int) iter.Seq[int] {
-	return func(yield func(int) bool) {
-		for up := kin.Parent(l, i); up != kin.None && yield(up); {
-			up = kin.Parent(l, up)
-		}
-	}
 }
 
 // siblings yields the elements with the same parent as a node that stand ahead of it, or behind, the nearest first.
