@@ -4,6 +4,7 @@ import (
 	"slices"
 
 	"wainscot/api"
+	"wainscot/property"
 )
 
 // The shorthands whose values do not stand on sides.
@@ -17,19 +18,19 @@ const (
 func standsFor(name string) (int, int) {
 	switch name {
 	case "margin":
-		return marginTop, 4
+		return property.MarginTop, 4
 	case "padding":
-		return paddingTop, 4
+		return property.PaddingTop, 4
 	case "border-width":
-		return borderTopWidth, 4
+		return property.BorderTopWidth, 4
 	case flexFlow:
-		return flexDirection, 2
+		return property.FlexDirection, 2
 	case flex:
-		return flexGrow, 3
+		return property.FlexGrow, 3
 	case "gap":
-		return rowGap, 2
+		return property.RowGap, 2
 	case container:
-		return containerType, 2
+		return property.ContainerType, 2
 	}
 	p := Named(name)
 	return p, min(p, 1)
@@ -45,7 +46,7 @@ func sides(name string, told []api.Value) func(i int) api.Value {
 	case name == flex:
 		told = flexible(told)
 	case name == container:
-		told = []api.Value{second(told, containerType), told[0]}
+		told = []api.Value{second(told, property.ContainerType), told[0]}
 	}
 	return func(i int) api.Value {
 		// A side that is not told is as the one across, and Right as Top.
@@ -66,10 +67,10 @@ func second(told []api.Value, p int) api.Value {
 
 // flow answers a direction and a wrap, in whichever order they are told.
 func flow(told []api.Value) []api.Value {
-	if Takes(flexDirection, told[0]) {
-		return []api.Value{told[0], second(told, flexWrap)}
+	if Takes(property.FlexDirection, told[0]) {
+		return []api.Value{told[0], second(told, property.FlexWrap)}
 	}
-	return []api.Value{second(told, flexDirection), told[0]}
+	return []api.Value{second(told, property.FlexDirection), told[0]}
 }
 
 // flexible answers how a box grows, how it shrinks, and its basis.
@@ -79,9 +80,9 @@ func flexible(told []api.Value) []api.Value {
 		return []api.Value{number(0), number(0), word("auto")}
 	}
 	numbers, basis := told, px(0)
-	if Takes(flexBasis, told[0]) {
+	if Takes(property.FlexBasis, told[0]) {
 		numbers, basis = told[1:], told[0]
-	} else if Takes(flexBasis, told[last]) {
+	} else if Takes(property.FlexBasis, told[last]) {
 		numbers, basis = told[:last], told[last]
 	}
 	numbers = slices.Clone(numbers)
